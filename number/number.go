@@ -1,0 +1,26 @@
+// Package number has numbers as they are sent: in some bytes, the highest one
+// first. The layers that send numbers share it, so that they can't differ.
+package number
+
+// The greatest numbers of two and of four bytes.
+const (
+	MaxTwo  = 1<<16 - 1
+	MaxFour = 1<<32 - 1
+)
+
+// Of tells the number of some bytes.
+func Of(b []byte) int {
+	n := 0
+	for _, c := range b {
+		n = n<<8 | int(c)
+	}
+	return n
+}
+
+// AppendTwo takes a number's lowest two bytes; what is above them is dropped.
+func AppendTwo(b []byte, n int) []byte {
+	return append(b, byte(n>>8), byte(n))
+}
+
+// Fits tells if a number is from 0 to the greatest one.
+func Fits(n, most int) bool { return n >= 0 && n <= most }
