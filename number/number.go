@@ -2,8 +2,9 @@
 // first. The layers that send numbers share it, so that they can't differ.
 package number
 
-// The greatest numbers of two and of four bytes.
+// The greatest numbers of one, two and four bytes.
 const (
+	MaxOne  = 1<<8 - 1
 	MaxTwo  = 1<<16 - 1
 	MaxFour = 1<<32 - 1
 )

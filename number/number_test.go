@@ -15,7 +15,7 @@ func TestOf(t *testing.T) {
 	}{
 		{nil, 0},
 		{[]byte{0}, 0},
-		{[]byte{255}, 255},
+		{[]byte{255}, number.MaxOne},
 		{[]byte{1, 2}, 258},
 		{[]byte{255, 255}, number.MaxTwo},
 		{[]byte{5, 6, 7, 8}, 84281096},
@@ -42,7 +42,7 @@ func TestAppendTwo(t *testing.T) {
 }
 
 func TestFits(t *testing.T) {
-	for _, most := range []int{0, 15, number.MaxTwo, number.MaxFour} {
+	for _, most := range []int{0, 15, number.MaxOne, number.MaxTwo, number.MaxFour} {
 		for _, n := range []int{math.MinInt, -1, most + 1, math.MaxInt} {
 			if number.Fits(n, most) {
 				t.Errorf("%d fits, and %d is the greatest", n, most)
