@@ -17,6 +17,13 @@ func Message(m api.Message) api.Message {
 	}
 }
 
+// Match tells the same node of a rule in memory of its own.
+func Match(m api.Match) api.Match {
+	m.Name = list(m.Name)
+	m.Addr = list(m.Addr)
+	return m
+}
+
 func question(q api.Question) api.Question {
 	q.Name = list(q.Name)
 	return q

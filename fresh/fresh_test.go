@@ -73,3 +73,32 @@ func TestMessageSharesNothing(t *testing.T) {
 		t.Errorf("what was handed in is changed: %v", m)
 	}
 }
+
+// node makes a node of a rule whose lists are longer in memory than they tell.
+func node() api.Match {
+	labels := []string{"a", "B", "behind"}
+	addr := []byte{1, 2, 3, 99}
+	return api.Match{Op: 4, N: -5, Name: labels[:2], Addr: addr[:3]}
+}
+
+func TestMatch(t *testing.T) {
+	if got := fresh.Match(node()); !reflect.DeepEqual(got, node()) {
+		t.Errorf("got %v, want %v", got, node())
+	}
+	if got := fresh.Match(api.Match{}); !reflect.DeepEqual(got, api.Match{}) {
+		t.Errorf("of nothing: got %v", got)
+	}
+}
+
+func TestMatchSharesNothing(t *testing.T) {
+	m := node()
+	got := fresh.Match(m)
+	at := map[uintptr]string{}
+	memory(reflect.ValueOf(m), at, "argument", func(string, string) {})
+	memory(reflect.ValueOf(got), at, "answer", func(one, two string) {
+		t.Errorf("%s and %s share memory", one, two)
+	})
+	if !reflect.DeepEqual(m, node()) || m.Name[:3][2] != "behind" || m.Addr[:4][3] != 99 {
+		t.Errorf("what was handed in is changed: %v", m)
+	}
+}
