@@ -23,5 +23,10 @@ func AppendTwo(b []byte, n int) []byte {
 	return append(b, byte(n>>8), byte(n))
 }
 
+// AppendFour takes a number's lowest four bytes; what is above them is dropped.
+func AppendFour(b []byte, n int) []byte {
+	return AppendTwo(AppendTwo(b, n>>16), n)
+}
+
 // Fits tells if a number is from 0 to the greatest one.
 func Fits(n, most int) bool { return n >= 0 && n <= most }

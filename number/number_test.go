@@ -41,6 +41,22 @@ func TestAppendTwo(t *testing.T) {
 	}
 }
 
+func TestAppendFour(t *testing.T) {
+	for _, n := range []int{0, 1, 255, 256, 65535, 65536, 0x1020304, 1 << 31, number.MaxFour} {
+		got := number.AppendFour([]byte{7}, n)
+		want := []byte{7, byte(n >> 24), byte(n >> 16), byte(n >> 8), byte(n)}
+		if !bytes.Equal(got, want) || number.Of(got[1:]) != n {
+			t.Errorf("AppendFour of %d: got %d", n, got)
+		}
+	}
+	if got := number.AppendFour(nil, 0x102030405060708); !bytes.Equal(got, []byte{5, 6, 7, 8}) {
+		t.Errorf("AppendFour of a greater number: got %d", got)
+	}
+	if got := number.AppendFour(nil, -2); !bytes.Equal(got, []byte{255, 255, 255, 254}) {
+		t.Errorf("AppendFour of a number below 0: got %d", got)
+	}
+}
+
 func TestFits(t *testing.T) {
 	for _, most := range []int{0, 15, number.MaxOne, number.MaxTwo, number.MaxFour} {
 		for _, n := range []int{math.MinInt, -1, most + 1, math.MaxInt} {
